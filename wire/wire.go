@@ -93,8 +93,10 @@ func Digests(l []api.Digest) []byte {
 // GetDigests decodes a list of digests at the beginning of a byte sequence.
 func GetDigests(b []byte) ([]api.Digest, int, api.Errno) {
 	return getList(b, api.DigestSize, func(b []byte) (api.Digest, int, api.Errno) {
+		// A statement of its own: in one return, d may be read before copy has filled it.
 		var d api.Digest
-		return d, copy(d[:], b), api.OK
+		copy(d[:], b)
+		return d, len(d), api.OK
 	})
 }
 

@@ -281,6 +281,10 @@ func TestP1_8Digests(t *testing.T) {
 			t.Errorf("P1.8: GetDigests of %d elements: %v, used %d, error %d", len(l), v, used, e)
 		}
 	}
+	one := append([]byte{129, 1, 1, 2}, make([]byte, 14)...)
+	if l, used, e := GetDigests(one); len(l) != 1 || l[0] != (api.Digest{1, 2}) || used != 18 || e != api.OK {
+		t.Errorf("P1.8: GetDigests of %v: %v, used %d, error %d", one, l, used, e)
+	}
 	two := Digests([]api.Digest{digest(1), digest(2)})
 	refuses(t, "P1.8", "GetDigests", append(lengths(),
 		refusal{two[:2], api.ErrMore},
